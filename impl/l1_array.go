@@ -57,6 +57,20 @@ func copyList(list []int) []int {
 	return out
 }
 
+// arrayWith returns an array of a shape that has at(n) as its number n, and
+// true; the zero value and false if the shape is not valid. It keeps the shape.
+func arrayWith(shape []int, at func(n int) int) (Array, bool) {
+	l, ok := layoutOf(shape)
+	if !ok {
+		return Array{}, false
+	}
+	data := make([]int, l.size)
+	for n := range data {
+		data[n] = at(n)
+	}
+	return Array{Shape: shape, Data: data}, true
+}
+
 // ValidArray reports whether an array is valid.
 func ValidArray(a Array) bool {
 	l, ok := layoutOf(a.Shape)

@@ -161,6 +161,26 @@ func roomy(list []int) []int {
 	return out[:len(list)]
 }
 
+// wholes returns copies of lists and of their spare capacity.
+func wholes(lists [][]int) [][]int {
+	var out [][]int
+	for _, list := range lists {
+		out = append(out, slices.Clone(list[:cap(list)]))
+	}
+	return out
+}
+
+// wantKept fails unless the first lists and their spare capacity are as they
+// were (wholes).
+func wantKept(t *testing.T, lists, before [][]int) {
+	t.Helper()
+	for i, kept := range before {
+		if !slices.Equal(lists[i][:cap(lists[i])], kept) {
+			t.Errorf("%v became %v", kept, lists[i][:cap(lists[i])])
+		}
+	}
+}
+
 // scribble overwrites a list and its spare capacity.
 func scribble(list []int) {
 	all := list[:cap(list)]
@@ -174,10 +194,7 @@ func scribble(list []int) {
 func wantApart(t *testing.T, what string, lists ...[]int) {
 	t.Helper()
 	for i, one := range lists {
-		var before [][]int
-		for _, other := range lists {
-			before = append(before, slices.Clone(other[:cap(other)]))
-		}
+		before := wholes(lists)
 		scribble(one)
 		for j, other := range lists {
 			if j != i && !slices.Equal(other[:cap(other)], before[j]) {

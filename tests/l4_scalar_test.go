@@ -424,6 +424,20 @@ func TestP141SomeFunctionsHaveNoOrder(t *testing.T) {
 	}
 }
 
+func TestP142ArraysAreEqualToThemselves(t *testing.T) {
+	for _, a := range mixedSamples() {
+		for _, x := range []struct{ op, n int }{{impl.OpEqual, 1}, {impl.OpLess, 0}} {
+			want := impl.Array{Shape: a.Shape, Data: slices.Repeat([]int{x.n}, len(a.Data))}
+			if b := combine(t, x.op, a, a); !equal(b, want) {
+				t.Errorf("Combine(%d, %v) of itself = %v", x.op, a, b)
+			}
+		}
+		if b := combine(t, impl.OpMin, a, a); !equal(b, a) {
+			t.Errorf("Combine(OpMin, %v) of itself = %v", a, b)
+		}
+	}
+}
+
 func TestP156SizesAreNotNegative(t *testing.T) {
 	for _, a := range mixedSamples() {
 		size := mapped(t, impl.FnSize, a)
@@ -444,10 +458,7 @@ func TestResultsOfFunctionsAreFresh(t *testing.T) {
 		b := impl.Array{Shape: roomy(sample.Shape), Data: roomy(sample.Data)}
 		one := impl.Array{Data: roomy([]int{3})}
 		lists := [][]int{a.Shape, a.Data, b.Shape, b.Data, one.Data}
-		var before [][]int
-		for _, list := range lists {
-			before = append(before, slices.Clone(list[:cap(list)]))
-		}
+		before := wholes(lists)
 		for _, op := range everyOp() {
 			for _, c := range []impl.Array{combine(t, op, a, b), combine(t, op, a, one), combine(t, op, one, a), combine(t, op, a, a)} {
 				lists = append(lists, c.Shape, c.Data)
@@ -457,11 +468,7 @@ func TestResultsOfFunctionsAreFresh(t *testing.T) {
 			c := mapped(t, fn, a)
 			lists = append(lists, c.Shape, c.Data)
 		}
-		for i, kept := range before {
-			if !slices.Equal(lists[i][:cap(lists[i])], kept) {
-				t.Errorf("%v became %v", kept, lists[i])
-			}
-		}
+		wantKept(t, lists, before)
 		wantApart(t, "functions", lists...)
 	}
 }
