@@ -57,6 +57,11 @@ func copyList(list []int) []int {
 	return out
 }
 
+// copyArray returns an array in new memory.
+func copyArray(a Array) Array {
+	return Array{Shape: copyList(a.Shape), Data: copyList(a.Data)}
+}
+
 // arrayWith returns an array of a shape that has at(n) as its number n, and
 // true; the zero value and false if the shape is not valid. It keeps the shape.
 func arrayWith(shape []int, at func(n int) int) (Array, bool) {

@@ -66,7 +66,7 @@ func WithItem(a Array, place []int, n int) (Array, bool) {
 	if at < 0 || !isNumber(n) {
 		return Array{}, false
 	}
-	b := Array{Shape: copyList(a.Shape), Data: copyList(a.Data)}
+	b := copyArray(a)
 	b.Data[at] = n
 	return b, true
 }
